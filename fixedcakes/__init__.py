@@ -1,0 +1,1 @@
+"""Fixed points and cakes: colours on a triangle, and where all three meet."""

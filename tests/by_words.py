@@ -1,0 +1,200 @@
+"""The document's words, followed step by step, and maps to try: what the tests hold the program against."""
+
+from functools import lru_cache
+
+LARGEST = 4294967295
+SIZES = range(1, 10)
+
+
+@lru_cache(maxsize=None)
+def places(m):
+    found = [(i, j) for i in range(m + 1) for j in range(m + 1) if i + j <= m]
+    return tuple(sorted(found, key=lambda place: (place[1], place[0])))
+
+
+def numbers(m, place):
+    i, j = place
+    return (i, j, m - i - j)
+
+
+def as_sending(m, f):
+    """The map as a dict from place to place."""
+    pairs = zip(f[0::2], f[1::2], strict=True)
+    return dict(zip(places(m), pairs, strict=True))
+
+
+def as_list(m, sending):
+    """The map as the flat list that is handed in; sending is a function of m, i and j."""
+    flat = []
+    for i, j in places(m):
+        flat.extend(sending(m, i, j))
+    return flat
+
+
+def colours(m, f):
+    """The colour of each place, as a dict."""
+    found = {}
+    for place, target in as_sending(m, f).items():
+        for colour, (here, there) in enumerate(zip(numbers(m, place), numbers(m, target), strict=True)):
+            if here != 0 and not there > here:
+                found[place] = colour
+                break
+    return found
+
+
+def map_colours(m, f):
+    told = colours(m, f)
+    return [len(places(m))] + [told[place] for place in places(m)]
+
+
+def fixed(m, f):
+    held = [place for place, target in as_sending(m, f).items() if place == target]
+    answer = [len(held)]
+    for i, j in held:
+        answer += [i, j]
+    return answer
+
+
+def hold_all(m, i, j):
+    return (i, j)
+
+
+def turn_left(m, i, j):
+    """Each corner of the triangle goes to another one, and back after three times."""
+    return (m - i - j, i)
+
+
+def turn_right(m, i, j):
+    return (j, m - i - j)
+
+
+def mirror(m, i, j):
+    return (j, i)
+
+
+def to_first_corner(m, i, j):
+    return (m, 0)
+
+
+def to_second_corner(m, i, j):
+    return (0, m)
+
+
+def to_third_corner(m, i, j):
+    return (0, 0)
+
+
+def to_middle(m, i, j):
+    return (m // 3, m // 3)
+
+
+NAMED = (hold_all, turn_left, turn_right, mirror, to_first_corner, to_second_corner, to_third_corner, to_middle)
+
+
+def mixed_maps(m, how_many):
+    """Maps with no plan in them, the same ones each time."""
+    state = 1000003 * m + 17
+    found = []
+    for _ in range(how_many):
+        flat = []
+        for _ in places(m):
+            state = (state * 6364136223846793005 + 1442695040888963407) % 2 ** 64
+            flat.extend(places(m)[(state >> 33) % len(places(m))])
+        found.append(flat)
+    return found
+
+
+def near_maps(m, how_many):
+    """Maps that send each place to itself or to one beside it: their lines wind more than others'."""
+    state = 7919 * m + 5
+    found = []
+    for _ in range(how_many):
+        flat = []
+        for i, j in places(m):
+            beside = [(a, b) for a, b in places(m) if max(abs(a - i), abs(b - j), abs(a + b - i - j)) <= 1]
+            state = (state * 6364136223846793005 + 1442695040888963407) % 2 ** 64
+            flat.extend(beside[(state >> 33) % len(beside)])
+        found.append(flat)
+    return found
+
+
+def all_maps(m):
+    """Every map there is; few enough for m of 1 (27) and 2 (46656)."""
+    found = [[]]
+    for _ in places(m):
+        found = [flat + list(target) for flat in found for target in places(m)]
+    return found
+
+
+@lru_cache(maxsize=None)
+def tried():
+    """Pairs of m and a map, for every size."""
+    found = []
+    for m in SIZES:
+        for sending in NAMED:
+            found.append((m, tuple(as_list(m, sending))))
+        for f in mixed_maps(m, 40) + near_maps(m, 40):
+            found.append((m, tuple(f)))
+    for f in all_maps(1) + all_maps(2)[::29]:
+        found.append((1 if len(f) == 6 else 2, tuple(f)))
+    return tuple(found)
+
+
+def wrong_maps():
+    """Pairs of m and f, to be refused with -22."""
+    found = []
+    for m in (0, 10, 11, 100, 65536, 2 ** 31, LARGEST - 1, LARGEST):
+        for f in ([], [0, 0], [0] * 6, [0] * 110, [0] * 132, [0] * 200, [LARGEST] * 200):
+            found.append((m, f))
+    for m in SIZES:
+        good = as_list(m, hold_all)
+        lengths = (0, 1, 2, len(good) - 2, len(good) - 1, len(good) + 1, len(good) + 2, len(good) * 2, 199, 200)
+        for length in lengths:
+            if length <= 200 and length != len(good):
+                found.append((m, (good + [0] * 200)[:length]))
+        for place in (0, len(good) // 4, len(good) // 2 - 1):
+            for i, j in too_much(m):
+                found.append((m, good[:2 * place] + [i, j] + good[2 * place + 2:]))
+    return found
+
+
+def too_much(m):
+    """Pairs of numbers that are more than m together."""
+    return [
+        (m + 1, 0), (0, m + 1), (m, 1), (1, m), (m, m), (m - m // 2, m // 2 + 1),
+        (LARGEST, 0), (0, LARGEST), (LARGEST, LARGEST), (LARGEST, 1), (1, LARGEST),
+        (2 ** 31, 2 ** 31), (LARGEST - m, m + 1), (65536, 65536),
+    ]
+
+
+class Untouched(list):
+    """A list that can be read, but not changed, not for a while either."""
+
+    def refuse(self, *args, **kwargs):
+        raise AssertionError("a list that was handed in was changed")
+
+    __setitem__ = __delitem__ = __iadd__ = __imul__ = refuse
+    append = clear = extend = insert = pop = remove = reverse = sort = refuse
+
+
+def check_form(case, answer):
+    """An answer is a list of whole numbers, none of them True or False; a refusal is its number alone."""
+    case.assertIs(type(answer), list)
+    for number in answer:
+        case.assertIs(type(number), int)
+    case.assertGreater(len(answer), 0)
+    if answer[0] < 0:
+        case.assertEqual(len(answer), 1)
+
+
+def check_kept_apart(case, call, front, f):
+    """Nothing that is handed in is changed, and nothing is kept from one call to the next."""
+    handed = list(f)
+    first = call(*front, handed)
+    case.assertEqual(handed, list(f))
+    case.assertEqual(call(*front, Untouched(f)), first)
+    # What the caller does with an answer, or with the list afterwards, is nothing to the next call.
+    call(*front, handed).append(99)
+    handed.clear()
+    call(*front, handed)
+    case.assertEqual(call(*front, list(f)), first)
