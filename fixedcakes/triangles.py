@@ -1,11 +1,14 @@
-"""Colours on a triangle: of maps that send its places to places.
+"""Colours on a triangle, of maps that send its places to places, and the first room where all three meet.
 
 Each call gives back a list of whole numbers; a refusal is its number alone.
-A place is kept as the tuple (i, j), a map as the flat list that was handed in.
+A place is kept as the tuple (i, j), a map as the flat list that was handed in,
+a room as the tuple of its corners, a side as the tuple of the two places it goes from and to.
 """
 
 NOT_AS_TOLD = -22
+NOT_THERE = -2
 GREATEST_SIZE = 9
+NO_POINT = -1
 
 
 def is_size(m):
@@ -32,8 +35,79 @@ def place_index(m, place):
     return j * (m + 1) - j * (j - 1) // 2 + place[0]
 
 
+def is_place(m, place):
+    return place[0] + place[1] <= m
+
+
 def three_numbers(m, place):
     return (place[0], place[1], m - place[0] - place[1])
+
+
+def all_rooms(m):
+    """The rooms in their order, each as its corners, so told that one goes round them on the left."""
+    found = []
+    for j in range(m):
+        for i in range(m - j):
+            found.append(((i, j), (i + 1, j), (i, j + 1)))
+            if i + j < m - 1:
+                found.append(((i + 1, j + 1), (i, j + 1), (i + 1, j)))
+    return found
+
+
+def sides_of_points(m):
+    """Of each point of the lines its sides: of the rooms, and behind them of the m outer sides."""
+    found = []
+    for room in all_rooms(m):
+        found.append([(room[0], room[1]), (room[1], room[2]), (room[2], room[0])])
+    for i in range(m):
+        # An outer side is seen from outside, against its room's way round, like any side from the room beyond it:
+        # so a door out of its point is one into its room, and one rule holds for all points.
+        found.append([((i, m - i), (i + 1, m - i - 1))])
+    return found
+
+
+def points_by_side(sides):
+    """Which point has a side, by the side as that point tells it."""
+    found = {}
+    for point in range(len(sides)):
+        for side in sides[point]:
+            found[side] = point
+    return found
+
+
+def is_door_out(m, colours, side):
+    return colours[place_index(m, side[0])] == 1 and colours[place_index(m, side[1])] == 0
+
+
+def next_points(m, colours):
+    """Of each point what's next after it, NO_POINT where a line ends."""
+    sides = sides_of_points(m)
+    owners = points_by_side(sides)
+    found = []
+    for own in sides:
+        beyond = [owners[(side[1], side[0])] for side in own if is_door_out(m, colours, side)]
+        # Going round three corners one comes from a 1 to a 0 once at most.
+        found.append(beyond[0] if len(beyond) > 0 else NO_POINT)
+    return found
+
+
+def end_of_line(following, start):
+    # It begins outside, where nothing is before it, and each point is next after one at most: it can't run in a ring.
+    point = start
+    while following[point] != NO_POINT:
+        point = following[point]
+    return point
+
+
+def first_room(m, colours):
+    """The first room by fair colours."""
+    # There are m * m rooms, and the outer sides are the points behind them.
+    outside = m * m
+    following = next_points(m, colours)
+    begun = [side for side in range(outside, outside + m) if following[side] != NO_POINT]
+    ends = [end_of_line(following, side) for side in begun]
+    # By fair colours the outer sides go from a 0 to a 1 in all, so one line more begins at them than ends there.
+    return [end for end in ends if end < outside][0]
 
 
 def is_map(m, f):
@@ -81,4 +155,27 @@ def fixed(m, f):
     answer = [len(held)]
     for place in held:
         answer.extend(place)
+    return answer
+
+
+def shifts(m, i, j, f):
+    """3, then how much greater each number of the place is where map f sends it."""
+    if not is_map(m, f):
+        return [NOT_AS_TOLD]
+    if not is_place(m, (i, j)):
+        return [NOT_THERE]
+    here = three_numbers(m, (i, j))
+    there = three_numbers(m, sent_to(m, f, (i, j)))
+    return [3] + [there[c] - here[c] for c in range(3)]
+
+
+def nearly(m, f):
+    """The first room, then i, j and the colour by map f of each of its corners."""
+    if not is_map(m, f):
+        return [NOT_AS_TOLD]
+    colours = colours_of_map(m, f)
+    room = first_room(m, colours)
+    answer = [room]
+    for place in all_rooms(m)[room]:
+        answer.extend([place[0], place[1], colours[place_index(m, place)]])
     return answer

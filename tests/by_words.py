@@ -55,6 +55,105 @@ def fixed(m, f):
     return answer
 
 
+def shifts(m, i, j, f):
+    here = numbers(m, (i, j))
+    there = numbers(m, as_sending(m, f)[(i, j)])
+    return [3] + [b - a for a, b in zip(here, there, strict=True)]
+
+
+@lru_cache(maxsize=None)
+def rooms(m):
+    found = []
+    for i, j in places(m):
+        if i + j < m:
+            found.append(((i, j), (i + 1, j), (i, j + 1)))
+        if i + j < m - 1:
+            found.append(((i + 1, j + 1), (i, j + 1), (i + 1, j)))
+    return tuple(found)
+
+
+def round_on_the_left(corners):
+    return list(zip(corners, corners[1:] + corners[:1], strict=True))
+
+
+@lru_cache(maxsize=None)
+def outer_sides(m):
+    return tuple(frozenset({(i + 1, m - i - 1), (i, m - i)}) for i in range(m))
+
+
+@lru_cache(maxsize=None)
+def beyond(m, room, side):
+    """What's on the other side of a room's side: another room, an outer side, or nothing."""
+    for other, corners in enumerate(rooms(m)):
+        if other != room and side <= frozenset(corners):
+            return other
+    if side in outer_sides(m):
+        return len(rooms(m)) + outer_sides(m).index(side)
+    return None
+
+
+def next_after(m, told, point):
+    """The point next after this one by the colours told, None where there's none."""
+    if point < len(rooms(m)):
+        for a, b in round_on_the_left(rooms(m)[point]):
+            if (told[a], told[b]) == (1, 0):
+                return beyond(m, point, frozenset({a, b}))
+        return None
+    side = outer_sides(m)[point - len(rooms(m))]
+    for room, corners in enumerate(rooms(m)):
+        for a, b in round_on_the_left(corners):
+            if side == {a, b} and (told[a], told[b]) == (0, 1):
+                return room
+    return None
+
+
+def lines(m, told):
+    """The lines that begin at outer sides, from side 0 on, each as all its points."""
+    found = []
+    for start in range(len(rooms(m)), len(rooms(m)) + m):
+        line = [start]
+        while next_after(m, told, line[-1]) is not None:
+            line.append(next_after(m, told, line[-1]))
+        if len(line) > 1:
+            found.append(line)
+    return found
+
+
+def nearly(m, f):
+    told = colours(m, f)
+    ends = [line[-1] for line in lines(m, told)]
+    first = next(end for end in ends if end < len(rooms(m)))
+    answer = [first]
+    for place in rooms(m)[first]:
+        answer += [*place, told[place]]
+    return answer
+
+
+def apart(m, f):
+    """How far apart corners are sent, for the whole map."""
+    sending = as_sending(m, f)
+    most = 0
+    for corners in rooms(m):
+        for one in corners:
+            for other in corners:
+                pairs = zip(numbers(m, sending[one]), numbers(m, sending[other]), strict=True)
+                most = max([most] + [a - b for a, b in pairs])
+    return most
+
+
+def map_with_colours(m, wanted):
+    """A map by which each place has the colour that wanted tells of it."""
+    flat = []
+    for i, j in places(m):
+        here = numbers(m, (i, j))
+        for target in places(m):
+            fitting = [c for c, there in enumerate(numbers(m, target)) if here[c] != 0 and there <= here[c]]
+            if fitting[0] == wanted(m, i, j):
+                flat.extend(target)
+                break
+    return flat
+
+
 def hold_all(m, i, j):
     return (i, j)
 

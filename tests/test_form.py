@@ -13,6 +13,8 @@ PACKAGE = pathlib.Path(triangles.__file__).parent
 INTERFACE = {
     "map_colours": ["m", "f"],
     "fixed": ["m", "f"],
+    "shifts": ["m", "i", "j", "f"],
+    "nearly": ["m", "f"],
 }
 
 OUTSIDE = (
