@@ -1,13 +1,14 @@
-"""Colours on a triangle, of maps that send its places to places, and the first room where all three meet.
+"""Colours on a triangle, of maps that send its places to places and of cakes that are cut at its places.
 
 Each call gives back a list of whole numbers; a refusal is its number alone.
-A place is kept as the tuple (i, j), a map as the flat list that was handed in,
+A place is kept as the tuple (i, j), a map or a cake as the flat list that was handed in,
 a room as the tuple of its corners, a side as the tuple of the two places it goes from and to.
 """
 
 NOT_AS_TOLD = -22
 NOT_THERE = -2
 GREATEST_SIZE = 9
+GREATEST_WORTH = 1000
 NO_POINT = -1
 
 
@@ -40,6 +41,7 @@ def is_place(m, place):
 
 
 def three_numbers(m, place):
+    """The place's numbers; cut there, they are also how many slices each piece has."""
     return (place[0], place[1], m - place[0] - place[1])
 
 
@@ -179,3 +181,63 @@ def nearly(m, f):
     for place in all_rooms(m)[room]:
         answer.extend([place[0], place[1], colours[place_index(m, place)]])
     return answer
+
+
+def apart_in_room(m, f, room):
+    """The most by which any number is greater where map f sends one corner than where it sends another."""
+    sent = [three_numbers(m, sent_to(m, f, corner)) for corner in room]
+    most = 0
+    for c in range(3):
+        told = [there[c] for there in sent]
+        most = max(most, max(told) - min(told))
+    return most
+
+
+def apart(m, f):
+    """How far apart map f sends corners of a room."""
+    if not is_map(m, f):
+        return [NOT_AS_TOLD]
+    return [max([apart_in_room(m, f, room) for room in all_rooms(m)])]
+
+
+def is_cake(m, v):
+    # As with maps, the size comes first.
+    if not is_size(m):
+        return False
+    if len(v) != 3 * m:
+        return False
+    return max(v) <= GREATEST_WORTH
+
+
+def piece_worth(m, v, c, place, k):
+    """What piece k is worth to person c, cut at the place."""
+    lengths = three_numbers(m, place)
+    start = c * m + sum(lengths[:k])
+    return sum(v[start:start + lengths[k]])
+
+
+def best_piece(m, v, c, place):
+    """The piece that person c likes best, cut at the place."""
+    lengths = three_numbers(m, place)
+    filled = [k for k in range(3) if lengths[k] != 0]
+    best = filled[0]
+    for k in filled:
+        # Only what's worth more comes before an earlier piece: of like ones the first is liked best.
+        if piece_worth(m, v, c, place, k) > piece_worth(m, v, c, place, best):
+            best = k
+    return best
+
+
+def whose_place(place):
+    return (place[0] + 2 * place[1]) % 3
+
+
+def colours_of_cake(m, v):
+    return [best_piece(m, v, whose_place(place), place) for place in all_places(m)]
+
+
+def cake_colours(m, v):
+    """How many places, then their colours by cake v."""
+    if not is_cake(m, v):
+        return [NOT_AS_TOLD]
+    return [count_places(m)] + colours_of_cake(m, v)

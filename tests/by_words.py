@@ -1,4 +1,4 @@
-"""The document's words, followed step by step, and maps to try: what the tests hold the program against."""
+"""The document's words, followed step by step, and maps and cakes to try: what the tests hold the program against."""
 
 from functools import lru_cache
 
@@ -138,7 +138,33 @@ def apart(m, f):
             for other in corners:
                 pairs = zip(numbers(m, sending[one]), numbers(m, sending[other]), strict=True)
                 most = max([most] + [a - b for a, b in pairs])
-    return most
+    return [most]
+
+
+def pieces(m, place):
+    """The three pieces, each as the numbers of its slices."""
+    i, j = place
+    row = list(range(m))
+    return [row[:i], row[i:i + j], row[i + j:]]
+
+
+def piece_worth(m, c, place, k, v):
+    own = v[m * c:m * (c + 1)]
+    total = 0
+    for number in pieces(m, place)[k]:
+        total += own[number]
+    return total
+
+
+def liked_best(m, c, place, v):
+    filled = [k for k in (0, 1, 2) if pieces(m, place)[k] != []]
+    most = max(piece_worth(m, c, place, k, v) for k in filled)
+    return [k for k in filled if piece_worth(m, c, place, k, v) == most][0]
+
+
+def cake_colours(m, v):
+    told = [liked_best(m, (i + j + j) % 3, (i, j), v) for i, j in places(m)]
+    return [len(places(m))] + told
 
 
 def map_with_colours(m, wanted):
@@ -190,29 +216,34 @@ def to_middle(m, i, j):
 NAMED = (hold_all, turn_left, turn_right, mirror, to_first_corner, to_second_corner, to_third_corner, to_middle)
 
 
+def draws(state):
+    """Numbers with no plan in them, the same ones each time."""
+    while True:
+        state = (state * 6364136223846793005 + 1442695040888963407) % 2 ** 64
+        yield state >> 33
+
+
 def mixed_maps(m, how_many):
     """Maps with no plan in them, the same ones each time."""
-    state = 1000003 * m + 17
+    drawn = draws(1000003 * m + 17)
     found = []
     for _ in range(how_many):
         flat = []
         for _ in places(m):
-            state = (state * 6364136223846793005 + 1442695040888963407) % 2 ** 64
-            flat.extend(places(m)[(state >> 33) % len(places(m))])
+            flat.extend(places(m)[next(drawn) % len(places(m))])
         found.append(flat)
     return found
 
 
 def near_maps(m, how_many):
     """Maps that send each place to itself or to one beside it: their lines wind more than others'."""
-    state = 7919 * m + 5
+    drawn = draws(7919 * m + 5)
     found = []
     for _ in range(how_many):
         flat = []
         for i, j in places(m):
             beside = [(a, b) for a, b in places(m) if max(abs(a - i), abs(b - j), abs(a + b - i - j)) <= 1]
-            state = (state * 6364136223846793005 + 1442695040888963407) % 2 ** 64
-            flat.extend(beside[(state >> 33) % len(beside)])
+            flat.extend(beside[next(drawn) % len(beside)])
         found.append(flat)
     return found
 
@@ -264,6 +295,76 @@ def too_much(m):
         (LARGEST, 0), (0, LARGEST), (LARGEST, LARGEST), (LARGEST, 1), (1, LARGEST),
         (2 ** 31, 2 ** 31), (LARGEST - m, m + 1), (65536, 65536),
     ]
+
+
+def mixed_cakes(m, how_many, most):
+    """Cakes whose slices are worth most at most, with no plan in them, the same ones each time."""
+    drawn = draws(31337 * m + most)
+    return [[next(drawn) % (most + 1) for _ in range(3 * m)] for _ in range(how_many)]
+
+
+def named_cakes(m):
+    """The corners that the document names, and cakes that rise, fall, or have one good slice each."""
+    good = mixed_cakes(m, 1, 1000)[0]
+    found = [[worth] * (3 * m) for worth in (0, 1, 7, 999, 1000)]
+    # Each finds all slices alike, but not like the others.
+    found.append([3] * m + [0] * m + [1000] * m)
+    for c in (0, 1, 2):
+        # Nothing's worth anything to one, or to all but one.
+        found.append(good[:m * c] + [0] * m + good[m * (c + 1):])
+        found.append([0] * (m * c) + good[m * c:m * (c + 1)] + [0] * (m * (2 - c)))
+    for number in range(3 * m):
+        # One slice is worth nothing, or nothing but one is worth anything, to somebody.
+        found.append(good[:number] + [0] + good[number + 1:])
+        found.append([0] * number + [1000] + [0] * (3 * m - number - 1))
+    rising = [100 * number for number in range(m)]
+    falling = rising[::-1]
+    found += [rising * 3, falling * 3, rising + falling + rising, falling + [1] * m + rising]
+    return found
+
+
+def all_cakes(m, worths):
+    """Every cake whose slices are worth one of these."""
+    found = [[]]
+    for _ in range(3 * m):
+        found = [flat + [worth] for flat in found for worth in worths]
+    return found
+
+
+@lru_cache(maxsize=None)
+def tried_cakes():
+    """Pairs of m and a cake, for every size."""
+    found = []
+    for m in SIZES:
+        # The less the slices are worth, the more pieces are worth as much as others.
+        for v in named_cakes(m) + mixed_cakes(m, 12, 1000) + mixed_cakes(m, 12, 3) + mixed_cakes(m, 12, 1):
+            found.append((m, tuple(v)))
+    for v in all_cakes(1, (0, 1, 1000)):
+        found.append((1, tuple(v)))
+    for v in all_cakes(2, (0, 1, 2))[::7]:
+        found.append((2, tuple(v)))
+    return tuple(found)
+
+
+def wrong_cakes():
+    """Pairs of m and v, to be refused with -22."""
+    found = []
+    for m in (0, 10, 11, 66, 100, 65536, 2 ** 31, LARGEST - 1, LARGEST):
+        for length in (0, 1, 3, 27, 30, 33, 198, 200):
+            for worth in (0, 1000, LARGEST):
+                found.append((m, [worth] * length))
+    for m in SIZES:
+        for length in (0, 1, m, 2 * m, 3 * m - 3, 3 * m - 1, 3 * m + 1, 3 * m + 3, 6 * m, 199, 200):
+            if length != 3 * m:
+                found.append((m, [5] * length))
+        good = mixed_cakes(m, 1, 1000)[0]
+        for number in range(3 * m):
+            for worth in (1001, LARGEST):
+                found.append((m, good[:number] + [worth] + good[number + 1:]))
+        for worth in (1001, 1002, 65536, 2 ** 31, 2 ** 32 - 1000, LARGEST):
+            found.append((m, [worth] + [0] * (3 * m - 1)))
+            found.append((m, [worth] * (3 * m)))
+    return found
 
 
 class Untouched(list):

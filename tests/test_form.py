@@ -15,6 +15,8 @@ INTERFACE = {
     "fixed": ["m", "f"],
     "shifts": ["m", "i", "j", "f"],
     "nearly": ["m", "f"],
+    "apart": ["m", "f"],
+    "cake_colours": ["m", "v"],
 }
 
 OUTSIDE = (

@@ -1,7 +1,7 @@
 import unittest
 
 import by_words
-from fixedcakes.triangles import map_colours, nearly, shifts
+from fixedcakes.triangles import map_colours, nearly
 
 
 def comb(m, i, j):
@@ -108,18 +108,6 @@ class NearlyTest(unittest.TestCase):
                 self.assertEqual(answer[3::3], [told[corner] for corner in corners])
                 # One comes in by a door and finds none out, so they stand round on the left.
                 self.assertIn(answer[3::3], ([0, 1, 2], [1, 2, 0], [2, 0, 1]))
-
-    def test_where_they_meet_places_hold_nearly_still(self):
-        for m, f in by_words.tried():
-            with self.subTest(m=m, f=f):
-                told = dict(zip(by_words.places(m), map_colours(m, list(f))[1:], strict=True))
-                most = by_words.apart(m, list(f)) + 1
-                meeting = [room for room in by_words.rooms(m) if {told[place] for place in room} == {0, 1, 2}]
-                self.assertIn(by_words.rooms(m)[nearly(m, list(f))[0]], meeting)
-                for i, j in sum(meeting, ()):
-                    moved = shifts(m, i, j, list(f))[1:]
-                    self.assertLessEqual(max(moved), most)
-                    self.assertGreaterEqual(min(moved), -2 * most)
 
     def test_refusals(self):
         for m, f in by_words.wrong_maps():
