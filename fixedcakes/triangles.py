@@ -209,6 +209,14 @@ def is_cake(m, v):
     return max(v) <= GREATEST_WORTH
 
 
+def is_person(c):
+    return c < 3
+
+
+def is_piece(k):
+    return k < 3
+
+
 def piece_worth(m, v, c, place, k):
     """What piece k is worth to person c, cut at the place."""
     lengths = three_numbers(m, place)
@@ -241,3 +249,21 @@ def cake_colours(m, v):
     if not is_cake(m, v):
         return [NOT_AS_TOLD]
     return [count_places(m)] + colours_of_cake(m, v)
+
+
+def choice(m, c, i, j, v):
+    """Which piece of cake v person c likes best, cut at the place."""
+    if not is_cake(m, v):
+        return [NOT_AS_TOLD]
+    if not (is_place(m, (i, j)) and is_person(c)):
+        return [NOT_THERE]
+    return [best_piece(m, v, c, (i, j))]
+
+
+def worth(m, c, i, j, k, v):
+    """What piece k of cake v is worth to person c, cut at the place."""
+    if not is_cake(m, v):
+        return [NOT_AS_TOLD]
+    if not (is_place(m, (i, j)) and is_person(c) and is_piece(k)):
+        return [NOT_THERE]
+    return [piece_worth(m, v, c, (i, j), k)]

@@ -162,6 +162,14 @@ def liked_best(m, c, place, v):
     return [k for k in filled if piece_worth(m, c, place, k, v) == most][0]
 
 
+def choice(m, c, i, j, v):
+    return [liked_best(m, c, (i, j), v)]
+
+
+def worth(m, c, i, j, k, v):
+    return [piece_worth(m, c, (i, j), k, v)]
+
+
 def cake_colours(m, v):
     told = [liked_best(m, (i + j + j) % 3, (i, j), v) for i, j in places(m)]
     return [len(places(m))] + told
@@ -306,7 +314,7 @@ def mixed_cakes(m, how_many, most):
 def named_cakes(m):
     """The corners that the document names, and cakes that rise, fall, or have one good slice each."""
     good = mixed_cakes(m, 1, 1000)[0]
-    found = [[worth] * (3 * m) for worth in (0, 1, 7, 999, 1000)]
+    found = [[alike] * (3 * m) for alike in (0, 1, 7, 999, 1000)]
     # Each finds all slices alike, but not like the others.
     found.append([3] * m + [0] * m + [1000] * m)
     for c in (0, 1, 2):
@@ -327,7 +335,7 @@ def all_cakes(m, worths):
     """Every cake whose slices are worth one of these."""
     found = [[]]
     for _ in range(3 * m):
-        found = [flat + [worth] for flat in found for worth in worths]
+        found = [flat + [told] for flat in found for told in worths]
     return found
 
 
@@ -351,19 +359,19 @@ def wrong_cakes():
     found = []
     for m in (0, 10, 11, 66, 100, 65536, 2 ** 31, LARGEST - 1, LARGEST):
         for length in (0, 1, 3, 27, 30, 33, 198, 200):
-            for worth in (0, 1000, LARGEST):
-                found.append((m, [worth] * length))
+            for told in (0, 1000, LARGEST):
+                found.append((m, [told] * length))
     for m in SIZES:
         for length in (0, 1, m, 2 * m, 3 * m - 3, 3 * m - 1, 3 * m + 1, 3 * m + 3, 6 * m, 199, 200):
             if length != 3 * m:
                 found.append((m, [5] * length))
         good = mixed_cakes(m, 1, 1000)[0]
         for number in range(3 * m):
-            for worth in (1001, LARGEST):
-                found.append((m, good[:number] + [worth] + good[number + 1:]))
-        for worth in (1001, 1002, 65536, 2 ** 31, 2 ** 32 - 1000, LARGEST):
-            found.append((m, [worth] + [0] * (3 * m - 1)))
-            found.append((m, [worth] * (3 * m)))
+            for told in (1001, LARGEST):
+                found.append((m, good[:number] + [told] + good[number + 1:]))
+        for told in (1001, 1002, 65536, 2 ** 31, 2 ** 32 - 1000, LARGEST):
+            found.append((m, [told] + [0] * (3 * m - 1)))
+            found.append((m, [told] * (3 * m)))
     return found
 
 

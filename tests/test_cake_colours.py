@@ -49,8 +49,8 @@ class CakeColoursTest(unittest.TestCase):
     def test_everybody_finds_each_slice_alike(self):
         # The longest piece, of like ones the first.
         expected = [15, 2, 2, 0, 0, 0, 2, 2, 0, 0, 1, 1, 0, 1, 1, 1]
-        for worth in (1, 2, 999, 1000):
-            self.assertEqual(cake_colours(4, [worth] * 12), expected)
+        for alike in (1, 2, 999, 1000):
+            self.assertEqual(cake_colours(4, [alike] * 12), expected)
         self.assertEqual(cake_colours(4, [1] * 4 + [1000] * 4 + [7] * 4), expected)
         self.assertEqual(cake_colours(3, [1] * 9), [10, 2, 2, 0, 0, 2, 0, 0, 1, 1, 1])
 

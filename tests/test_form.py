@@ -17,6 +17,8 @@ INTERFACE = {
     "nearly": ["m", "f"],
     "apart": ["m", "f"],
     "cake_colours": ["m", "v"],
+    "choice": ["m", "c", "i", "j", "v"],
+    "worth": ["m", "c", "i", "j", "k", "v"],
 }
 
 OUTSIDE = (
