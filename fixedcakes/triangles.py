@@ -56,6 +56,14 @@ def all_rooms(m):
     return found
 
 
+def count_rooms(m):
+    return m * m
+
+
+def is_room(m, k):
+    return k < count_rooms(m)
+
+
 def sides_of_points(m):
     """Of each point of the lines its sides: of the rooms, and behind them of the m outer sides."""
     found = []
@@ -103,8 +111,8 @@ def end_of_line(following, start):
 
 def first_room(m, colours):
     """The first room by fair colours."""
-    # There are m * m rooms, and the outer sides are the points behind them.
-    outside = m * m
+    # The outer sides are the points behind the rooms.
+    outside = count_rooms(m)
     following = next_points(m, colours)
     begun = [side for side in range(outside, outside + m) if following[side] != NO_POINT]
     ends = [end_of_line(following, side) for side in begun]
@@ -267,3 +275,35 @@ def worth(m, c, i, j, k, v):
     if not (is_place(m, (i, j)) and is_person(c) and is_piece(k)):
         return [NOT_THERE]
     return [piece_worth(m, v, c, (i, j), k)]
+
+
+def corner_of_person(room, c):
+    """The corner of the room that is person c's place."""
+    # Round a room, i and twice j go up by one (or down by one) at each step, modulo 3: each person has one corner.
+    return [corner for corner in room if whose_place(corner) == c][0]
+
+
+def wishes_in_room(m, v, room):
+    """Of person 0, 1, 2: i and j of their corner of the room, and the piece that they like best there."""
+    told = []
+    for c in range(3):
+        corner = corner_of_person(room, c)
+        told.extend([corner[0], corner[1], best_piece(m, v, c, corner)])
+    return told
+
+
+def shared(m, v):
+    """The first room by cake v, then of each person their corner of it and the piece that they like best there."""
+    if not is_cake(m, v):
+        return [NOT_AS_TOLD]
+    room = first_room(m, colours_of_cake(m, v))
+    return [room] + wishes_in_room(m, v, all_rooms(m)[room])
+
+
+def wishes(m, k, v):
+    """9, then of each person their corner of room k and the piece of cake v that they like best there."""
+    if not is_cake(m, v):
+        return [NOT_AS_TOLD]
+    if not is_room(m, k):
+        return [NOT_THERE]
+    return [9] + wishes_in_room(m, v, all_rooms(m)[k])

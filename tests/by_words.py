@@ -119,10 +119,14 @@ def lines(m, told):
     return found
 
 
+def first_room(m, told):
+    ends = [line[-1] for line in lines(m, told)]
+    return next(end for end in ends if end < len(rooms(m)))
+
+
 def nearly(m, f):
     told = colours(m, f)
-    ends = [line[-1] for line in lines(m, told)]
-    first = next(end for end in ends if end < len(rooms(m)))
+    first = first_room(m, told)
     answer = [first]
     for place in rooms(m)[first]:
         answer += [*place, told[place]]
@@ -170,9 +174,36 @@ def worth(m, c, i, j, k, v):
     return [piece_worth(m, c, (i, j), k, v)]
 
 
+def whose(place):
+    i, j = place
+    return (i + j + j) % 3
+
+
 def cake_colours(m, v):
-    told = [liked_best(m, (i + j + j) % 3, (i, j), v) for i, j in places(m)]
+    told = [liked_best(m, whose(place), place, v) for place in places(m)]
     return [len(places(m))] + told
+
+
+def colours_of_cake(m, v):
+    """The colour of each place, as a dict."""
+    return dict(zip(places(m), cake_colours(m, v)[1:], strict=True))
+
+
+def wished_in(m, room, v):
+    """Of each person i and j of their corner of the room, and the piece that they like best there."""
+    by_person = {}
+    for corner in rooms(m)[room]:
+        by_person[whose(corner)] = [*corner, liked_best(m, whose(corner), corner, v)]
+    return by_person[0] + by_person[1] + by_person[2]
+
+
+def shared(m, v):
+    first = first_room(m, colours_of_cake(m, v))
+    return [first] + wished_in(m, first, v)
+
+
+def wishes(m, k, v):
+    return [9] + wished_in(m, k, v)
 
 
 def map_with_colours(m, wanted):

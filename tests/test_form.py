@@ -19,6 +19,8 @@ INTERFACE = {
     "cake_colours": ["m", "v"],
     "choice": ["m", "c", "i", "j", "v"],
     "worth": ["m", "c", "i", "j", "k", "v"],
+    "shared": ["m", "v"],
+    "wishes": ["m", "k", "v"],
 }
 
 OUTSIDE = (
