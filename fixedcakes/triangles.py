@@ -307,3 +307,25 @@ def wishes(m, k, v):
     if not is_room(m, k):
         return [NOT_THERE]
     return [9] + wishes_in_room(m, v, all_rooms(m)[k])
+
+
+def is_sharing(w):
+    """Whether w tells a piece for each of the three people."""
+    if len(w) != 3:
+        return False
+    return is_piece(max(w))
+
+
+def envy(m, v, c, place, own):
+    """By how much the piece that's worth most to person c is worth more to them than their own."""
+    worths = [piece_worth(m, v, c, place, k) for k in range(3)]
+    return max(worths) - worths[own]
+
+
+def envies(m, i, j, v, w):
+    """3, then the envy of person 0, 1, 2, cut at the place, if they have the pieces of cake v told in w."""
+    if not (is_cake(m, v) and is_sharing(w)):
+        return [NOT_AS_TOLD]
+    if not is_place(m, (i, j)):
+        return [NOT_THERE]
+    return [3] + [envy(m, v, c, (i, j), w[c]) for c in range(3)]

@@ -206,6 +206,14 @@ def wishes(m, k, v):
     return [9] + wished_in(m, k, v)
 
 
+def envies(m, i, j, v, w):
+    answer = [3]
+    for c, own in enumerate(w):
+        told = sorted(piece_worth(m, c, (i, j), k, v) for k in (0, 1, 2))
+        answer.append(told[-1] - piece_worth(m, c, (i, j), own, v))
+    return answer
+
+
 def map_with_colours(m, wanted):
     """A map by which each place has the colour that wanted tells of it."""
     flat = []
@@ -406,6 +414,23 @@ def wrong_cakes():
     return found
 
 
+def all_sharings():
+    """Every w that isn't refused, those with a piece told twice or three times among them."""
+    return [[a, b, c] for a in (0, 1, 2) for b in (0, 1, 2) for c in (0, 1, 2)]
+
+
+def wrong_sharings():
+    """Each w is to be refused with -22."""
+    found = [[told] * length for told in (0, 1, 2) for length in (0, 1, 2, 4, 5, 6, 9, 27, 199, 200)]
+    found += [[0, 1], [2, 1], [0, 1, 2, 0], [0, 1, 2, 3], [0, 1, 2] * 2, [3], [LARGEST] * 200]
+    for good in ([0, 1, 2], [2, 0, 1], [0, 0, 0]):
+        for c in (0, 1, 2):
+            for told in (3, 4, 9, 1000, 65536, 2 ** 31, LARGEST - 1, LARGEST):
+                found.append(good[:c] + [told] + good[c + 1:])
+    found += [[3, 3, 3], [LARGEST] * 3]
+    return found
+
+
 class Untouched(list):
     """A list that can be read, but not changed, not for a while either."""
 
@@ -426,14 +451,15 @@ def check_form(case, answer):
         case.assertEqual(len(answer), 1)
 
 
-def check_kept_apart(case, call, front, f):
+def check_kept_apart(case, call, front, *rows):
     """Nothing that is handed in is changed, and nothing is kept from one call to the next."""
-    handed = list(f)
-    first = call(*front, handed)
-    case.assertEqual(handed, list(f))
-    case.assertEqual(call(*front, Untouched(f)), first)
-    # What the caller does with an answer, or with the list afterwards, is nothing to the next call.
-    call(*front, handed).append(99)
-    handed.clear()
-    call(*front, handed)
-    case.assertEqual(call(*front, list(f)), first)
+    handed = [list(row) for row in rows]
+    first = call(*front, *handed)
+    case.assertEqual(handed, [list(row) for row in rows])
+    case.assertEqual(call(*front, *[Untouched(row) for row in rows]), first)
+    # What the caller does with an answer, or with the lists afterwards, is nothing to the next call.
+    call(*front, *handed).append(99)
+    for row in handed:
+        row.clear()
+    call(*front, *handed)
+    case.assertEqual(call(*front, *[list(row) for row in rows]), first)

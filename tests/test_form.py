@@ -21,6 +21,7 @@ INTERFACE = {
     "worth": ["m", "c", "i", "j", "k", "v"],
     "shared": ["m", "v"],
     "wishes": ["m", "k", "v"],
+    "envies": ["m", "i", "j", "v", "w"],
 }
 
 OUTSIDE = (
